@@ -1,0 +1,144 @@
+// Package rules tests what holds everywhere: the promises P1 to P5.
+package rules
+
+import (
+	"slices"
+	"strings"
+	"testing"
+
+	"tallyroll/api"
+	"tallyroll/wire"
+)
+
+// odd returns strings that no function should stumble over.
+func odd() []string {
+	l := []string{"", "\x00", "\xff", "\xff\xff", "\x00\x00", "\x80\x00a", "\xc3\x28", "é", "\x02\x58", "\x02\x59"}
+	for _, n := range []int{7, 8, 9, 255, 256, 599, 600, 601, 65535, 65536, 1 << 20} {
+		for _, c := range []string{"\x00", "\x01", "\x7f", "\xff"} {
+			l = append(l, strings.Repeat(c, n))
+		}
+	}
+	return l
+}
+
+// P1: no panic; P3: with an error, all else is zero.
+func TestWireTakesAnything(t *testing.T) {
+	for _, s := range odd() {
+		if l, err := wire.Get(s); err != api.OK && len(l) != 0 {
+			t.Errorf("Get(%.20q): %d with a result", s, err)
+		}
+		if a, b, err := wire.First(s); err != api.OK && (a != "" || b != "") {
+			t.Errorf("First(%.20q): %d with a result", s, err)
+		}
+		if n, err := wire.ReadNum(s); err != api.OK && n != 0 {
+			t.Errorf("ReadNum(%.20q): %d with a result", s, err)
+		}
+		for _, n := range []int{0, 1, 2, 59, 60, 61, 70000} {
+			if out, err := wire.Put(slices.Repeat([]string{s}, n)); err != api.OK && out != "" {
+				t.Errorf("Put(%.20q, %d times): %d with a result", s, n, err)
+			}
+		}
+	}
+}
+
+// P2: arguments stay as they are, also beyond their length.
+func TestWireKeepsArguments(t *testing.T) {
+	for _, n := range []int{0, 1, 3} {
+		all := []string{"a", "b", "c", "d", "e"}
+		before := slices.Clone(all)
+		if _, err := wire.Put(all[:n]); err != api.OK || !slices.Equal(all, before) {
+			t.Error(n, all, err)
+		}
+	}
+	l := []string{"a", "b"}
+	s, _ := wire.Put(l)
+	l[0] = "x"
+	if s != "\x00\x01a\x00\x01b" {
+		t.Errorf("%q", s)
+	}
+}
+
+// P2: results are new memory, and no call leaves a trace in another.
+func TestWireResultsAreNew(t *testing.T) {
+	const s = "\x00\x01a\x00\x01b"
+	first, _ := wire.Get(s)
+	first[0] = "x"
+	first = append(first[:1], "y", "z")
+	second, err := wire.Get(s)
+	if !slices.Equal(second, []string{"a", "b"}) || err != api.OK {
+		t.Error(first, second, err)
+	}
+	if _, err := wire.Get("\x00"); err != api.ErrForm {
+		t.Error(err)
+	}
+	third, err := wire.Get(s)
+	if !slices.Equal(third, second) || err != api.OK {
+		t.Error(third, err)
+	}
+}
+
+// P3: of several errors, the one that is listed first.
+func TestWireErrorOrder(t *testing.T) {
+	s := strings.Repeat("\xff", api.MaxText+1)
+	if _, err := wire.Get(s); err != api.ErrLarge {
+		t.Error(err)
+	}
+	if _, _, err := wire.First(s); err != api.ErrLarge {
+		t.Error(err)
+	}
+}
+
+// P3: a nil slice and an empty one are the same.
+func TestWireNilIsEmpty(t *testing.T) {
+	a, e := wire.Put(nil)
+	b, f := wire.Put([]string{})
+	if a != "" || b != "" || e != api.OK || f != api.OK {
+		t.Error(a, b, e, f)
+	}
+	if l, err := wire.Get(""); len(l) != 0 || err != api.OK {
+		t.Error(l, err)
+	}
+}
+
+// P4: strings are bytes, not runes.
+func TestWireBytes(t *testing.T) {
+	for c := range 256 {
+		one := string([]byte{byte(c)})
+		s, err := wire.Put([]string{one})
+		if s != "\x00\x01"+one || err != api.OK {
+			t.Errorf("Put(%q) = %q, %d", one, s, err)
+		}
+		if l, err := wire.Get(s); !slices.Equal(l, []string{one}) || err != api.OK {
+			t.Errorf("Get(%q) = %q, %d", s, l, err)
+		}
+	}
+	if s, err := wire.Put([]string{"é"}); s != "\x00\x02\xc3\xa9" || err != api.OK {
+		t.Errorf("%q %d", s, err)
+	}
+}
+
+// P5: errors, limits, verdicts and kinds have the numbers of the document.
+func TestConstants(t *testing.T) {
+	errnos := []api.Errno{api.OK, api.ErrArg, api.ErrLarge, api.ErrForm, api.ErrRange, api.ErrNone, api.ErrThere, api.ErrFull, api.ErrMark, api.ErrState}
+	for i, e := range errnos {
+		if int(e) != i {
+			t.Error("error", i, int(e))
+		}
+	}
+	for _, c := range []struct {
+		what      string
+		got, want []int
+	}{
+		{"verdicts", []int{api.Fine, api.Old, api.Bad, api.Fork, api.Odd, api.Lost, api.Alien}, []int{0, 1, 2, 3, 4, 5, 6}},
+		{"deeds", []int{api.DWant, api.DFate, api.DSay, api.DTick}, []int{1, 2, 3, 4}},
+		{"events", []int{api.EDue, api.ESaw, api.EGone}, []int{1, 2, 3}},
+		{"texts", []int{api.MaxText, api.MaxParts, api.MaxNames, api.MaxName, api.MaxValue, api.Deep}, []int{600, 60, 24, 12, 20, 16}},
+		{"heads", []int{api.MaxHeads, api.MaxEpoch, api.MaxTime}, []int{40, 1000000, 1000000000}},
+		{"queues", []int{api.MaxQueue, api.MaxWants, api.MaxChains, api.MaxLetters}, []int{30, 30, 8, 60}},
+		{"towns", []int{api.MaxOwners, api.MaxDeeds, api.MaxScript, api.MaxWorkers, api.MaxWork}, []int{4, 200, 100, 16, 60}},
+	} {
+		if !slices.Equal(c.got, c.want) {
+			t.Error(c.what, c.got, c.want)
+		}
+	}
+}
