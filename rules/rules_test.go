@@ -2,11 +2,13 @@
 package rules
 
 import (
+	"math"
 	"slices"
 	"strings"
 	"testing"
 
 	"tallyroll/api"
+	"tallyroll/mark"
 	"tallyroll/wire"
 )
 
@@ -114,6 +116,49 @@ func TestWireBytes(t *testing.T) {
 	}
 	if s, err := wire.Put([]string{"é"}); s != "\x00\x02\xc3\xa9" || err != api.OK {
 		t.Errorf("%q %d", s, err)
+	}
+}
+
+// P1: no panic; P3: with an error, the hash is zero.
+func TestMarkTakesAnything(t *testing.T) {
+	numbers := []uint64{0, 1, mark.M - 1, mark.M, mark.M + 1, 1 << 63, math.MaxUint64}
+	for _, a := range numbers {
+		for _, b := range numbers {
+			for _, n := range []int{math.MinInt, -1, 0, api.MaxText, api.MaxText + 1, math.MaxInt} {
+				if got, err := mark.Join(a, b, n); err != api.OK && got != 0 {
+					t.Errorf("Join(%d, %d, %d): %d with a result", a, b, n, err)
+				}
+			}
+			for _, kind := range []byte{0, 0x7f, 0x80, 0xff} {
+				if s := mark.Said(kind, a, b); mark.Two(kind, a, b) != mark.Of(s) {
+					t.Errorf("Two(%d, %d, %d)", kind, a, b)
+				}
+			}
+		}
+	}
+	for _, s := range odd() {
+		if mark.Of(s) >= mark.M || mark.Alike(s, s) {
+			t.Errorf("%.20q", s)
+		}
+	}
+}
+
+// P2: no call leaves a trace in another.
+func TestMarkKeepsNoState(t *testing.T) {
+	first := mark.Of("a")
+	for _, s := range odd() {
+		mark.Of(s)
+	}
+	mark.Join(mark.M, 0, -1)
+	if second := mark.Of("a"); second != first {
+		t.Error(first, second)
+	}
+}
+
+// P4: strings are bytes, so that invalid UTF-8 is told apart.
+func TestMarkBytes(t *testing.T) {
+	if mark.Of("\xff") == mark.Of("\xfe") || mark.Of("\xc3") == mark.Of("\uFFFD") || mark.Alike("\xff", "\uFFFD") {
+		t.Error("bytes as runes")
 	}
 }
 
