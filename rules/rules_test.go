@@ -9,6 +9,7 @@ import (
 
 	"tallyroll/api"
 	"tallyroll/mark"
+	"tallyroll/path"
 	"tallyroll/wire"
 )
 
@@ -158,6 +159,69 @@ func TestMarkKeepsNoState(t *testing.T) {
 // P4: strings are bytes, so that invalid UTF-8 is told apart.
 func TestMarkBytes(t *testing.T) {
 	if mark.Of("\xff") == mark.Of("\xfe") || mark.Of("\xc3") == mark.Of("\uFFFD") || mark.Alike("\xff", "\uFFFD") {
+		t.Error("bytes as runes")
+	}
+}
+
+// P1: no panic; P3: with an error, all else is zero.
+func TestPathTakesAnything(t *testing.T) {
+	for _, s := range odd() {
+		if p, err := path.Of(s); path.Name(s) || p != "" || err != api.ErrForm {
+			t.Errorf("Of(%.20q) = %q, %d", s, p, err)
+		}
+		for _, k := range []int{math.MinInt, -1, 0, api.Deep, math.MaxInt} {
+			if b, err := path.Bit(s, k); b != 0 || err != api.ErrForm {
+				t.Errorf("Bit(%.20q, %d) = %d, %d", s, k, b, err)
+			}
+		}
+		if l, err := path.Sort([]string{"a", s}); len(l) != 0 || err != api.ErrForm {
+			t.Errorf("Sort(%.20q) = %q, %d", s, l, err)
+		}
+		if n := path.Common(s, s+"0"); n != len(s) {
+			t.Errorf("Common(%.20q) = %d", s, n)
+		}
+	}
+}
+
+// P2: arguments stay as they are, also beyond their length.
+func TestPathKeepsArguments(t *testing.T) {
+	for _, n := range []int{0, 1, 4, 6} {
+		all := []string{"zoe", "b", "zoe", "a", "A", "k9"}
+		before := slices.Clone(all)
+		if _, err := path.Sort(all[:n]); (err == api.OK) != (n < 5) || !slices.Equal(all, before) {
+			t.Error(n, all, err)
+		}
+	}
+}
+
+// P2: results are new memory, also if there is nothing to sort.
+func TestPathResultsAreNew(t *testing.T) {
+	l := []string{"a", "zoe"}
+	first, _ := path.Sort(l)
+	first[0] = "x"
+	second, err := path.Sort(l)
+	l[1] = "y"
+	if !slices.Equal(second, []string{"a", "zoe"}) || l[0] != "a" || err != api.OK {
+		t.Error(l, first, second, err)
+	}
+	room := []string{"b", "c"}
+	if none, err := path.Sort(room[:0]); len(append(none, "x")) != 1 || room[0] != "b" || err != api.OK {
+		t.Error(none, room, err)
+	}
+}
+
+// P3: a nil slice and an empty one are the same.
+func TestPathNilIsEmpty(t *testing.T) {
+	a, e := path.Sort(nil)
+	b, f := path.Sort([]string{})
+	if len(a) != 0 || len(b) != 0 || e != api.OK || f != api.OK {
+		t.Error(a, b, e, f)
+	}
+}
+
+// P4: strings are bytes, so that the halves of a rune can be told apart and are no letters.
+func TestPathBytes(t *testing.T) {
+	if path.Common("\xc3\xa9", "\xc3\xa8") != 1 || path.Common("\xff", "\xfe") != 0 || path.Name("\u00e9") || path.Name("\uff11") {
 		t.Error("bytes as runes")
 	}
 }
