@@ -10,6 +10,7 @@ import (
 	"tallyroll/api"
 	"tallyroll/mark"
 	"tallyroll/path"
+	"tallyroll/tree"
 	"tallyroll/wire"
 )
 
@@ -223,6 +224,140 @@ func TestPathNilIsEmpty(t *testing.T) {
 func TestPathBytes(t *testing.T) {
 	if path.Common("\xc3\xa9", "\xc3\xa8") != 1 || path.Common("\xff", "\xfe") != 0 || path.Name("\u00e9") || path.Name("\uff11") {
 		t.Error("bytes as runes")
+	}
+}
+
+// P1: no panic; P3: with an error, all else is zero.
+func TestTreeTakesAnything(t *testing.T) {
+	books := [][]api.Entry{nil, {{Name: "a", Value: "1"}}, make([]api.Entry, 24), make([]api.Entry, 100000)}
+	for _, s := range odd() {
+		books = append(books, []api.Entry{{Name: s, Value: s}}, []api.Entry{{Name: "a", Value: s}}, []api.Entry{{Name: "a"}, {Name: s}})
+	}
+	for i, l := range books {
+		for _, s := range odd() {
+			if got, err := tree.Set(l, s, s); len(got) != 0 || err == api.OK {
+				t.Errorf("%d: Set(%.20q): %d", i, s, err)
+			}
+			if got, err := tree.Set(l, "b", s); err != api.OK && len(got) != 0 {
+				t.Errorf("%d: Set(b, %.20q): %d with a result", i, s, err)
+			}
+			if v, is, err := tree.Get(l, s); v != "" || is || err == api.OK {
+				t.Errorf("%d: Get(%.20q): %q, %t, %d", i, s, v, is, err)
+			}
+			if got, err := tree.Drop(l, s); len(got) != 0 || err == api.OK {
+				t.Errorf("%d: Drop(%.20q): %d", i, s, err)
+			}
+			if n, err := tree.At(l, s); err != api.OK && n != 0 {
+				t.Errorf("%d: At(%.20q): %d with a result", i, s, err)
+			}
+		}
+		err := tree.Check(l)
+		if s, e := tree.Leaf(l); e != err || err != api.OK && s != "" {
+			t.Errorf("%d: Leaf: %q, %d", i, s, e)
+		}
+		if n, e := tree.Root(l); e != err || err != api.OK && n != 0 {
+			t.Errorf("%d: Root: %d, %d", i, n, e)
+		}
+	}
+}
+
+// P2: arguments stay as they are, also beyond their length.
+func TestTreeKeepsArguments(t *testing.T) {
+	for n := range 4 {
+		all := []api.Entry{{Name: "a", Value: "1"}, {Name: "l0h", Value: "2"}, {Name: "yva", Value: "3"}, {Name: "zoe", Value: "4"}}
+		before := slices.Clone(all)
+		l := all[:n]
+		for _, name := range []string{"0", "a", "b", "l0h", "pt8", "yva", "k9", "zoe", "A"} {
+			tree.Set(l, name, "other")
+			tree.Get(l, name)
+			tree.Drop(l, name)
+		}
+		tree.Check(l)
+		tree.Leaf(l)
+		tree.Root(l)
+		tree.At(l, "000")
+		if !slices.Equal(all, before) {
+			t.Error(n, all)
+		}
+	}
+}
+
+// P2: books that are returned are new memory, and no two of them share any.
+func TestTreeResultsAreNew(t *testing.T) {
+	l := []api.Entry{{Name: "a", Value: "1"}, {Name: "b", Value: "2"}}
+	before := slices.Clone(l)
+	var books [][]api.Entry
+	for range 2 {
+		for _, name := range []string{"0", "a", "b", "zoe"} {
+			set, _ := tree.Set(l, name, "x")
+			drop, _ := tree.Drop(l, name)
+			books = append(books, set, drop)
+		}
+	}
+	var copies [][]api.Entry
+	for _, b := range books {
+		copies = append(copies, slices.Clone(b))
+	}
+	for i, b := range books {
+		whole := b[:cap(b)]
+		for k := range whole {
+			whole[k] = api.Entry{Name: "changed"}
+		}
+		if !slices.Equal(l, before) {
+			t.Fatal(i, l)
+		}
+		for j := i + 1; j < len(books); j++ {
+			if !slices.Equal(books[j], copies[j]) {
+				t.Fatal(i, j, books[j])
+			}
+		}
+	}
+	set, _ := tree.Set(l, "a", "1")
+	l[1].Value = "changed"
+	if !slices.Equal(set, before) {
+		t.Error(set)
+	}
+}
+
+// P3: a nil slice and an empty one are the same.
+func TestTreeNilIsEmpty(t *testing.T) {
+	for _, l := range [][]api.Entry{nil, {}, make([]api.Entry, 0, 5)} {
+		set, err := tree.Set(l, "a", "1")
+		if !slices.Equal(set, []api.Entry{{Name: "a", Value: "1"}}) || err != api.OK || tree.Check(l) != api.OK {
+			t.Error(set, err)
+		}
+		if v, is, err := tree.Get(l, "a"); v != "" || is || err != api.OK {
+			t.Error(v, is, err)
+		}
+		if _, err := tree.Drop(l, "a"); err != api.ErrNone {
+			t.Error(err)
+		}
+		s, e := tree.Leaf(l)
+		n, f := tree.Root(l)
+		if s != "\x00" || n != mark.Of("\x00") || e != api.OK || f != api.OK {
+			t.Error(s, n, e, f)
+		}
+	}
+}
+
+// P4: the length of a value is that of its bytes, and values are kept byte by byte.
+func TestTreeBytes(t *testing.T) {
+	for _, c := range []struct {
+		value string
+		want  api.Errno
+	}{
+		{strings.Repeat("\xff", 20), api.OK},
+		{strings.Repeat("\u00e9", 10), api.OK},
+		{strings.Repeat("\u00e9", 10) + "x", api.ErrLarge},
+		{strings.Repeat("\u00e9", 20), api.ErrLarge},
+	} {
+		l, err := tree.Set(nil, "a", c.value)
+		if err != c.want || tree.Check([]api.Entry{{Name: "a", Value: c.value}}) != c.want {
+			t.Errorf("%q: %d", c.value, err)
+		}
+		if v, is, _ := tree.Get(l, "a"); is != (c.want == api.OK) || is && v != c.value {
+			t.Errorf("%q: %q", c.value, v)
+		}
 	}
 }
 
