@@ -10,6 +10,7 @@ import (
 	"tallyroll/api"
 	"tallyroll/mark"
 	"tallyroll/path"
+	"tallyroll/proof"
 	"tallyroll/tree"
 	"tallyroll/wire"
 )
@@ -357,6 +358,159 @@ func TestTreeBytes(t *testing.T) {
 		}
 		if v, is, _ := tree.Get(l, "a"); is != (c.want == api.OK) || is && v != c.value {
 			t.Errorf("%q: %q", c.value, v)
+		}
+	}
+}
+
+// proofs returns proofs that no function should stumble over, and a good one at the end.
+func proofs() []api.Proof {
+	sides := slices.Repeat([]uint64{mark.Of("\x00")}, api.Deep)
+	l := []api.Proof{
+		{},
+		{Name: "a"},
+		{Name: "a", Sides: make([]uint64, 100000)},
+		{Name: "a", Entries: make([]api.Entry, 100000), Sides: sides},
+		{Name: "a", Sides: slices.Repeat([]uint64{math.MaxUint64}, api.Deep)},
+	}
+	for _, s := range odd() {
+		l = append(l,
+			api.Proof{Name: s, Sides: sides},
+			api.Proof{Name: "a", Entries: []api.Entry{{Name: s, Value: s}}, Sides: sides},
+			api.Proof{Name: "a", Entries: []api.Entry{{Name: "a", Value: s}}, Sides: sides})
+	}
+	return append(l, api.Proof{Name: "a", Entries: []api.Entry{{Name: "a", Value: "1"}}, Sides: sides})
+}
+
+// P1: no panic; P3: with an error, all else is zero.
+func TestProofTakesAnything(t *testing.T) {
+	for i, p := range proofs() {
+		err := proof.Right(p)
+		if s, e := proof.Said(p); e != err || err != api.OK && len(s) != 0 {
+			t.Errorf("%d: Said: %q, %d", i, s, e)
+		}
+		root, e := proof.Root(p)
+		if e != err || err != api.OK && root != 0 {
+			t.Errorf("%d: Root: %d, %d", i, root, e)
+		}
+		for _, n := range []uint64{0, root, mark.M, math.MaxUint64} {
+			if v, is, err := proof.Tell(n, p); err != api.OK && (v != "" || is) {
+				t.Errorf("%d: Tell(%d): %d with a result", i, n, err)
+			}
+			for _, s := range odd() {
+				if h, err := proof.After(n, p, s); err != api.OK && h != 0 {
+					t.Errorf("%d: After(%d, %.20q): %d with a result", i, n, s, err)
+				}
+			}
+		}
+		for _, s := range odd() {
+			if q, err := proof.Make(p.Entries, s); q.Name != "" || len(q.Entries) != 0 || len(q.Sides) != 0 || err == api.OK {
+				t.Errorf("%d: Make(%.20q): %d", i, s, err)
+			}
+		}
+	}
+}
+
+// P2: arguments stay as they are, also beyond their length.
+func TestProofKeepsArguments(t *testing.T) {
+	all := []api.Entry{{Name: "l0h", Value: "1"}, {Name: "pt8", Value: "2"}, {Name: "yva", Value: "3"}, {Name: "zoe", Value: "4"}}
+	before := slices.Clone(all)
+	for n := range 4 {
+		for _, name := range []string{"a", "l0h", "pt8", "xem", "yva", "zoe", "A"} {
+			p, err := proof.Make(all[:n], name)
+			if !slices.Equal(all, before) {
+				t.Fatal(n, name, all)
+			}
+			if err != api.OK {
+				continue
+			}
+			entries := append(slices.Clone(p.Entries), api.Entry{Name: "x"}, api.Entry{Name: "y"})
+			sides := append(slices.Clone(p.Sides), 5, 6)
+			entriesBefore, sidesBefore := slices.Clone(entries), slices.Clone(sides)
+			q := api.Proof{Name: name, Entries: entries[:len(p.Entries)], Sides: sides[:len(p.Sides)]}
+			root, _ := proof.Root(q)
+			proof.Right(q)
+			proof.Said(q)
+			proof.Tell(root, q)
+			if _, err := proof.After(root, q, "other"); err != api.OK {
+				t.Error(n, name, err)
+			}
+			if !slices.Equal(entries, entriesBefore) || !slices.Equal(sides, sidesBefore) {
+				t.Error(n, name, entries, sides)
+			}
+		}
+	}
+}
+
+// P2: proofs and preimages are new memory, and no two of them share any.
+func TestProofResultsAreNew(t *testing.T) {
+	l := []api.Entry{{Name: "l0h", Value: "1"}, {Name: "pt8", Value: "2"}}
+	first, _ := proof.Make(l, "l0h")
+	second, _ := proof.Make(l, "pt8")
+	entries, sides := slices.Clone(second.Entries), slices.Clone(second.Sides)
+	whole := first.Entries[:cap(first.Entries)]
+	for i := range whole {
+		whole[i] = api.Entry{Name: "changed"}
+	}
+	for i := range first.Sides {
+		first.Sides[i] = 7
+	}
+	if l[0].Name != "l0h" || l[1].Name != "pt8" {
+		t.Fatal(l)
+	}
+	l[0].Value = "changed"
+	if !slices.Equal(second.Entries, entries) || !slices.Equal(second.Sides, sides) {
+		t.Error(second)
+	}
+	said, _ := proof.Said(second)
+	before := slices.Clone(said)
+	again, _ := proof.Said(second)
+	again[0] = "changed"
+	second.Entries[0].Value = "changed"
+	if !slices.Equal(said, before) {
+		t.Errorf("%q", said)
+	}
+}
+
+// P3: a nil slice and an empty one are the same.
+func TestProofNilIsEmpty(t *testing.T) {
+	sides := make([]uint64, api.Deep)
+	a := api.Proof{Name: "a", Sides: sides}
+	b := api.Proof{Name: "a", Entries: []api.Entry{}, Sides: sides}
+	m, e := proof.Root(a)
+	n, f := proof.Root(b)
+	if m != n || e != api.OK || f != api.OK {
+		t.Error(m, n, e, f)
+	}
+	x, e := proof.After(m, a, "1")
+	y, f := proof.After(m, b, "1")
+	if x != y || e != api.OK || f != api.OK {
+		t.Error(x, y, e, f)
+	}
+	for _, none := range [][]uint64{nil, {}} {
+		if err := proof.Right(api.Proof{Name: "a", Sides: none}); err != api.ErrForm {
+			t.Error(err)
+		}
+	}
+	for _, l := range [][]api.Entry{nil, {}} {
+		if p, err := proof.Make(l, "a"); len(p.Entries) != 0 || len(p.Sides) != api.Deep || err != api.OK {
+			t.Error(p, err)
+		}
+	}
+}
+
+// P4: values are bytes, in their length and in what is told.
+func TestProofBytes(t *testing.T) {
+	for _, value := range []string{strings.Repeat("\xff", 20), strings.Repeat("\u00e9", 10), "\x00\xc3"} {
+		p, _ := proof.Make([]api.Entry{{Name: "a", Value: value}}, "a")
+		root, _ := proof.Root(p)
+		if v, is, err := proof.Tell(root, p); v != value || !is || err != api.OK {
+			t.Errorf("%q: %q, %t, %d", value, v, is, err)
+		}
+		if n, err := proof.After(root, p, value); n != root || err != api.OK {
+			t.Errorf("%q: %d, %d", value, n, err)
+		}
+		if _, err := proof.After(root, p, strings.Repeat("\u00e9", 11)); err != api.ErrLarge {
+			t.Error(err)
 		}
 	}
 }
