@@ -8,6 +8,7 @@ import (
 	"testing"
 
 	"tallyroll/api"
+	"tallyroll/clash"
 	"tallyroll/mark"
 	"tallyroll/path"
 	"tallyroll/proof"
@@ -512,6 +513,102 @@ func TestProofBytes(t *testing.T) {
 		if _, err := proof.After(root, p, strings.Repeat("\u00e9", 11)); err != api.ErrLarge {
 			t.Error(err)
 		}
+	}
+}
+
+// P1: no panic; P3: with an error, all else is zero.
+func TestClashTakesAnything(t *testing.T) {
+	l := proofs()
+	good := l[len(l)-1]
+	for i, p := range l {
+		for _, q := range []api.Proof{p, good, {}} {
+			if s, u, err := clash.Proofs(p, q); s != "" || u != "" || err == api.OK {
+				t.Errorf("%d: Proofs: %q, %q, %d", i, s, u, err)
+			}
+			if s, u, err := clash.Proofs(q, p); s != "" || u != "" || err == api.OK {
+				t.Errorf("%d: Proofs: %q, %q, %d", i, s, u, err)
+			}
+		}
+	}
+	for _, s := range odd() {
+		for _, a := range [][]string{{s}, {s, ""}, {"", s}, odd()[:2]} {
+			for _, b := range [][]string{nil, {s}, {s + "x"}, {s + "x", ""}, {"", s + "x"}, {"x", s}} {
+				if s, u, err := clash.Texts(a, b); s != "" || u != "" || err == api.OK {
+					t.Errorf("Texts(%.40q, %.40q): %q, %q, %d", a, b, s, u, err)
+				}
+			}
+		}
+	}
+}
+
+// P2: arguments stay as they are, also beyond their length.
+func TestClashKeepsArguments(t *testing.T) {
+	a := []string{"x", "abcdefghijklmnopqrst", "y", "z"}
+	b := []string{"w", "cfdfodilddpokdmpqrss", "y", "v"}
+	beforeA, beforeB := slices.Clone(a), slices.Clone(b)
+	for n := range 4 {
+		clash.Texts(a[:n], b[:n])
+		clash.Texts(a[:n], b)
+		clash.Texts(a[:n], a[:n])
+		if !slices.Equal(a, beforeA) || !slices.Equal(b, beforeB) {
+			t.Fatal(n, a, b)
+		}
+	}
+	entries := []api.Entry{{Name: "a", Value: a[1]}, {Name: "a", Value: b[1]}, {Name: "x"}}
+	sides := make([]uint64, api.Deep+2)
+	before := slices.Clone(entries)
+	p := api.Proof{Name: "a", Entries: entries[:1], Sides: sides[:api.Deep]}
+	q := api.Proof{Name: "a", Entries: entries[1:2], Sides: sides[:api.Deep]}
+	_, _, err := clash.Proofs(p, q)
+	if !slices.Equal(entries, before) || !slices.Equal(sides, make([]uint64, api.Deep+2)) || err != api.OK {
+		t.Error(entries, sides, err)
+	}
+}
+
+// P2: no call leaves a trace in another, and none in its results.
+func TestClashKeepsNoState(t *testing.T) {
+	a := []string{"abcdefghijklmnopqrst"}
+	b := []string{"cfdfodilddpokdmpqrss"}
+	s, u, _ := clash.Texts(a, b)
+	a[0] = "x"
+	if _, _, err := clash.Texts(a, b); err != api.ErrMark {
+		t.Error(err)
+	}
+	a[0] = s
+	v, w, err := clash.Texts(a, b)
+	if s != "abcdefghijklmnopqrst" || u != "cfdfodilddpokdmpqrss" || v != s || w != u || err != api.OK {
+		t.Error(s, u, v, w, err)
+	}
+}
+
+// P3: a nil slice and an empty one are the same.
+func TestClashNilIsEmpty(t *testing.T) {
+	sides := make([]uint64, api.Deep)
+	for _, a := range [][]string{nil, {}} {
+		for _, b := range [][]string{nil, {}} {
+			if _, _, err := clash.Texts(a, b); err != api.ErrForm {
+				t.Error(err)
+			}
+		}
+	}
+	p := api.Proof{Name: "a", Sides: sides}
+	q := api.Proof{Name: "a", Entries: []api.Entry{}, Sides: sides}
+	if s, u, err := clash.Proofs(p, q); s != "" || u != "" || err != api.ErrNone {
+		t.Error(s, u, err)
+	}
+}
+
+// P4: strings are bytes, so that invalid ones are told apart.
+func TestClashBytes(t *testing.T) {
+	if _, _, err := clash.Texts([]string{"\xff"}, []string{"\xfe"}); err != api.ErrMark {
+		t.Error(err)
+	}
+	if _, _, err := clash.Texts([]string{"\xff", "x"}, []string{"\uFFFD", "x"}); err != api.ErrNone {
+		t.Error(err)
+	}
+	a, b := "\xff\xfeabcdefghijklmnopqrst\xff", "\xff\xfecfdfodilddpokdmpqrss\xff"
+	if s, u, err := clash.Texts([]string{"\xff", a}, []string{"\xfe", b}); s != a || u != b || err != api.OK {
+		t.Errorf("%q, %q, %d", s, u, err)
 	}
 }
 
