@@ -8,6 +8,7 @@ import (
 	"testing"
 
 	"tallyroll/api"
+	"tallyroll/change"
 	"tallyroll/clash"
 	"tallyroll/mark"
 	"tallyroll/path"
@@ -609,6 +610,116 @@ func TestClashBytes(t *testing.T) {
 	a, b := "\xff\xfeabcdefghijklmnopqrst\xff", "\xff\xfecfdfodilddpokdmpqrss\xff"
 	if s, u, err := clash.Texts([]string{"\xff", a}, []string{"\xfe", b}); s != a || u != b || err != api.OK {
 		t.Errorf("%q, %q, %d", s, u, err)
+	}
+}
+
+// P1: no panic; P3: with an error, all else is zero.
+func TestChangeTakesAnything(t *testing.T) {
+	lists := [][]api.Entry{nil, {{Name: "a", Value: "1"}}, make([]api.Entry, 24), make([]api.Entry, 100000), {{Name: "b"}, {Name: "a"}}}
+	for _, s := range odd() {
+		lists = append(lists, []api.Entry{{Name: s, Value: s}}, []api.Entry{{Name: "a", Value: s}}, []api.Entry{{Name: "a"}, {Name: s}})
+	}
+	for i, a := range lists {
+		for j, b := range lists {
+			l, err := change.Diff(a, b)
+			if err != api.OK && len(l) != 0 {
+				t.Errorf("%d, %d: Diff: %d with a result", i, j, err)
+			}
+			if l, n, e := change.Look(a, b); e != err || err != api.OK && (len(l) != 0 || n != 0) {
+				t.Errorf("%d, %d: Look: %q, %d, %d", i, j, l, n, e)
+			}
+			if got, err := change.Apply(a, b); err != api.OK && len(got) != 0 {
+				t.Errorf("%d, %d: Apply: %d with a result", i, j, err)
+			}
+		}
+	}
+}
+
+// P2: arguments stay as they are, also beyond their length, and also if both are one.
+func TestChangeKeepsArguments(t *testing.T) {
+	all := []api.Entry{{Name: "a", Value: "1"}, {Name: "l0h", Value: "2"}, {Name: "yva", Value: "3"}, {Name: "zoe", Value: "4"}}
+	other := []api.Entry{{Name: "a", Value: "5"}, {Name: "b", Value: "6"}, {Name: "pt8", Value: "7"}, {Name: "yva", Value: "8"}, {Name: "A"}}
+	before, otherBefore := slices.Clone(all), slices.Clone(other)
+	for n := range len(all) + 1 {
+		for m := range len(other) + 1 {
+			change.Diff(all[:n], other[:m])
+			change.Look(all[:n], other[:m])
+			change.Apply(all[:n], other[:m])
+			change.Apply(all[:n], all[:min(m, n)])
+			if !slices.Equal(all, before) || !slices.Equal(other, otherBefore) {
+				t.Fatal(n, m, all, other)
+			}
+		}
+	}
+}
+
+// P2: books and names that are returned are new memory, also if nothing changes, and no two of them share any.
+func TestChangeResultsAreNew(t *testing.T) {
+	l := []api.Entry{{Name: "a", Value: "1"}, {Name: "b", Value: "2"}}
+	before := slices.Clone(l)
+	for i, c := range [][]api.Entry{nil, {}, {{Name: "a", Value: "1"}}, {{Name: "a", Value: "x"}}, {{Name: "zoe"}}, l} {
+		first, _ := change.Apply(l, c)
+		second, _ := change.Apply(l, c)
+		want := slices.Clone(second)
+		whole := first[:cap(first)]
+		for k := range whole {
+			whole[k] = api.Entry{Name: "changed"}
+		}
+		if !slices.Equal(l, before) || !slices.Equal(second, want) {
+			t.Fatal(i, l, second)
+		}
+		l[0].Value = "changed"
+		if !slices.Equal(second, want) {
+			t.Error(i, second)
+		}
+		l[0].Value = "1"
+	}
+	diff, _ := change.Diff(nil, l)
+	found, _, _ := change.Look(nil, l)
+	diff[0], l[0].Name = "x", "y"
+	if !slices.Equal(found, []string{"a", "b"}) {
+		t.Error(found)
+	}
+	found[1], l[0].Name = "x", "a"
+	if again, err := change.Diff(nil, l); !slices.Equal(again, []string{"a", "b"}) || err != api.OK {
+		t.Error(again, err)
+	}
+}
+
+// P3: a nil slice and an empty one are the same.
+func TestChangeNilIsEmpty(t *testing.T) {
+	room := []api.Entry{{Name: "a"}, {Name: "b"}}
+	for _, a := range [][]api.Entry{nil, {}, room[:0]} {
+		for _, b := range [][]api.Entry{nil, {}, room[:0]} {
+			if l, err := change.Diff(a, b); len(l) != 0 || err != api.OK {
+				t.Error(l, err)
+			}
+			if l, n, err := change.Look(a, b); len(l) != 0 || n != 1 || err != api.OK {
+				t.Error(l, n, err)
+			}
+			if l, err := change.Apply(a, b); len(append(l, api.Entry{Name: "x"})) != 1 || room[0].Name != "a" || err != api.OK {
+				t.Error(l, room, err)
+			}
+		}
+	}
+}
+
+// P4: values are bytes, so that invalid ones are told apart, and their length is that of their bytes.
+func TestChangeBytes(t *testing.T) {
+	for _, c := range [][2]string{{"\xff", "\xfe"}, {"\xff", "\uFFFD"}, {"\xc3\xa9", "e\xcc\x81"}, {"", "\x00"}, {"K", "k"}} {
+		a, b := []api.Entry{{Name: "a", Value: c[0]}}, []api.Entry{{Name: "a", Value: c[1]}}
+		if l, err := change.Diff(a, b); !slices.Equal(l, []string{"a"}) || err != api.OK {
+			t.Errorf("%q: %q, %d", c, l, err)
+		}
+		if l, n, err := change.Look(a, b); !slices.Equal(l, []string{"a"}) || n != 33 || err != api.OK {
+			t.Errorf("%q: %q, %d, %d", c, l, n, err)
+		}
+		if l, err := change.Apply(a, b); !slices.Equal(l, b) || err != api.OK {
+			t.Errorf("%q: %q, %d", c, l, err)
+		}
+	}
+	if _, err := change.Apply(nil, []api.Entry{{Name: "a", Value: strings.Repeat("\u00e9", 11)}}); err != api.ErrLarge {
+		t.Error(err)
 	}
 }
 
