@@ -13,6 +13,7 @@ import (
 	"tallyroll/mark"
 	"tallyroll/path"
 	"tallyroll/proof"
+	"tallyroll/tag"
 	"tallyroll/tree"
 	"tallyroll/wire"
 )
@@ -720,6 +721,78 @@ func TestChangeBytes(t *testing.T) {
 	}
 	if _, err := change.Apply(nil, []api.Entry{{Name: "a", Value: strings.Repeat("\u00e9", 11)}}); err != api.ErrLarge {
 		t.Error(err)
+	}
+}
+
+// P1: no panic; P3: with an error, all else is zero.
+func TestTagTakesAnything(t *testing.T) {
+	for _, key := range []uint64{0, 1, mark.M, math.MaxUint64} {
+		for _, s := range odd() {
+			x := tag.Of(key, s)
+			if x >= mark.M || !tag.Right(key, s, x) || tag.Right(key, s, math.MaxUint64) {
+				t.Errorf("Of(%d, %.20q) = %d", key, s, x)
+			}
+			if a, err := tag.Ask(key, s, s, key); a != (api.Ask{}) || err != api.ErrForm {
+				t.Errorf("Ask(%d, %.20q): %v, %d", key, s, a, err)
+			}
+			a, err := tag.Ask(key, "a", s, key)
+			if (err == api.OK) != (len(s) <= 20) || err != api.OK && a != (api.Ask{}) || tag.Holds(key, a) != (err == api.OK) {
+				t.Errorf("Ask(%d, a, %.20q): %v, %d", key, s, a, err)
+			}
+			if tag.Holds(key, api.Ask{Name: s, Value: s, N: key, Tag: x}) || tag.Holds(key, api.Ask{Name: "a", Value: s, Tag: key}) {
+				t.Errorf("Holds(%d, %.20q)", key, s)
+			}
+		}
+	}
+}
+
+// P2: no call leaves a trace in another: a request is not remembered, nor the key of the last one.
+func TestTagKeepsNoState(t *testing.T) {
+	first, _ := tag.Ask(7, "zoe", "red", 2)
+	x := tag.Of(7, "text")
+	for _, key := range []uint64{0, 8, 7} {
+		tag.Ask(key, "zoe", "blue", 3)
+		tag.Ask(key, "A", "", 0)
+		tag.Holds(key, first)
+		tag.Of(key, "other")
+		if again, err := tag.Ask(7, "zoe", "red", 2); again != first || err != api.OK || tag.Of(7, "text") != x {
+			t.Error(key, again, err)
+		}
+		// The same request holds every time.
+		if !tag.Holds(7, first) || !tag.Holds(7, first) {
+			t.Error(key, first)
+		}
+	}
+}
+
+// P3: of several errors, the one that is listed first.
+func TestTagErrorOrder(t *testing.T) {
+	if _, err := tag.Ask(7, "A", strings.Repeat("v", 21), 0); err != api.ErrForm {
+		t.Error(err)
+	}
+}
+
+// P4: strings are bytes, in the length of a value and in what is tagged.
+func TestTagBytes(t *testing.T) {
+	for _, c := range []struct {
+		value string
+		want  api.Errno
+	}{
+		{strings.Repeat("\xff", 20), api.OK},
+		{strings.Repeat("\u00e9", 10), api.OK},
+		{strings.Repeat("\u00e9", 10) + "x", api.ErrLarge},
+		{strings.Repeat("\u00e9", 20), api.ErrLarge},
+	} {
+		if a, err := tag.Ask(7, "a", c.value, 1); err != c.want || err == api.OK && a.Value != c.value {
+			t.Errorf("%q: %v, %d", c.value, a, err)
+		}
+	}
+	for _, c := range [][2]string{{"\xff", "\xfe"}, {"\xff", "\uFFFD"}, {"\xc3\xa9", "e\xcc\x81"}, {"", "\x00"}, {"K", "k"}} {
+		a, err := tag.Ask(7, "a", c[0], 1)
+		a.Value = c[1]
+		if tag.Holds(7, a) || tag.Of(7, c[0]) == tag.Of(7, c[1]) || err != api.OK {
+			t.Errorf("%q: %v, %d", c, a, err)
+		}
 	}
 }
 
