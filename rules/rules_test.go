@@ -10,6 +10,7 @@ import (
 	"tallyroll/api"
 	"tallyroll/change"
 	"tallyroll/clash"
+	"tallyroll/head"
 	"tallyroll/mark"
 	"tallyroll/path"
 	"tallyroll/proof"
@@ -793,6 +794,99 @@ func TestTagBytes(t *testing.T) {
 		if tag.Holds(7, a) || tag.Of(7, c[0]) == tag.Of(7, c[1]) || err != api.OK {
 			t.Errorf("%q: %v, %d", c, a, err)
 		}
+	}
+}
+
+// heads returns heads that no function should stumble over: numbers in their ranges, at their bounds and far outside, in any combination.
+func heads() []api.Head {
+	var l []api.Head
+	for _, n := range []int64{math.MinInt64, -1, 0, 1, 1000000, 1000001, 1000000000, 1000000001, math.MaxInt64} {
+		for _, x := range []uint64{0, 1, mark.M - 1, mark.M, 1 << 63, math.MaxUint64} {
+			for _, y := range []uint64{0, 5, mark.M - 1, mark.M, math.MaxUint64} {
+				l = append(l, api.Head{Epoch: n, Root: x, Prev: y}, api.Head{Epoch: 1, Root: x, Prev: y, At: n}, api.Head{Epoch: n, Root: y, Prev: x, At: n})
+			}
+		}
+	}
+	return l
+}
+
+// P1: no panic; P3: with an error, all else is zero.
+func TestHeadTakesAnything(t *testing.T) {
+	for _, s := range odd() {
+		if h, err := head.Read(s); h != (api.Head{}) || err != api.ErrForm {
+			t.Errorf("Read(%.20q): %v, %d", s, h, err)
+		}
+	}
+	for _, h := range heads() {
+		want := head.Check(h)
+		s, err := head.Said(h)
+		x, fault := head.Mark(h)
+		if err != want || fault != want || (s == "") != (want != api.OK) || want != api.OK && x != 0 {
+			t.Errorf("Said(%v): %q, %d; Mark: %d, %d", h, s, err, x, fault)
+		}
+		if first, err := head.First(h.Root, h.At); err != api.OK && (first != api.Head{} || err != api.ErrRange) {
+			t.Errorf("First(%d, %d): %v, %d", h.Root, h.At, first, err)
+		}
+		for _, at := range []int64{math.MinInt64, -1, 0, h.At, 1000000000, math.MaxInt64} {
+			next, err := head.Next(h, h.Prev, at)
+			if want != api.OK && err != want || err != api.OK && next != (api.Head{}) || err == api.OK && head.Check(next) != api.OK {
+				t.Errorf("Next(%v, %d, %d): %v, %d", h, h.Prev, at, next, err)
+			}
+		}
+	}
+}
+
+// P2: no call leaves a trace in another: the head that was made last is not remembered.
+func TestHeadKeepsNoState(t *testing.T) {
+	first, _ := head.First(5, 7)
+	next, _ := head.Next(first, 6, 8)
+	said, _ := head.Said(next)
+	for _, h := range append(heads(), first, next) {
+		head.First(h.Root, h.At)
+		head.Next(h, 1, 1000000000)
+		head.Mark(h)
+		head.Read(said + "x")
+		again, err := head.Next(first, 6, 8)
+		read, fault := head.Read(said)
+		if again != next || read != next || err != api.OK || fault != api.OK {
+			t.Error(h, again, read, err, fault)
+		}
+	}
+}
+
+// P3: of several errors, the one that is listed first.
+func TestHeadErrorOrder(t *testing.T) {
+	for i, c := range []struct {
+		h    api.Head
+		want api.Errno
+	}{
+		{api.Head{Prev: 1, At: -1}, api.ErrRange},
+		{api.Head{Prev: mark.M}, api.ErrRange},
+		{api.Head{Prev: 1}, api.ErrForm},
+		{api.Head{Epoch: 1000001}, api.ErrRange},
+		{api.Head{Epoch: 1000000, Root: mark.M}, api.ErrRange},
+		{api.Head{Epoch: 1000000}, api.ErrFull},
+		{api.Head{Epoch: 999999}, api.ErrRange},
+	} {
+		if h, err := head.Next(c.h, mark.M, -1); h != (api.Head{}) || err != c.want {
+			t.Error(i, h, err)
+		}
+	}
+}
+
+// P4: strings are bytes: a preimage is read by its bytes, also where they are not text.
+func TestHeadBytes(t *testing.T) {
+	want := api.Head{Epoch: 1, Root: 0xc328ff80, Prev: 0xc3a9, At: 0x80}
+	said, err := head.Said(want)
+	if len(said) != 33 || said[13:17] != "\xc3\x28\xff\x80" || said[32] != 0x80 || err != api.OK {
+		t.Errorf("%q, %d", said, err)
+	}
+	if h, err := head.Read(said); h != want || err != api.OK {
+		t.Error(h, err)
+	}
+	// As runes it would have the right length, but not as bytes.
+	if h, err := head.Read("\x03" + strings.Repeat("\u00e9", 16) + strings.Repeat("\x00", 16)); h != (api.Head{}) || err != api.ErrForm {
+		t.Error(h, err)
 	}
 }
 
