@@ -8,6 +8,7 @@ import (
 	"testing"
 
 	"tallyroll/api"
+	"tallyroll/chain"
 	"tallyroll/change"
 	"tallyroll/clash"
 	"tallyroll/head"
@@ -887,6 +888,143 @@ func TestHeadBytes(t *testing.T) {
 	// As runes it would have the right length, but not as bytes.
 	if h, err := head.Read("\x03" + strings.Repeat("\u00e9", 16) + strings.Repeat("\x00", 16)); h != (api.Head{}) || err != api.ErrForm {
 		t.Error(h, err)
+	}
+}
+
+// chains returns lists of heads that no function should stumble over: valid chains, their parts, and lists that are none.
+func chains() [][]api.Head {
+	l := []api.Head{{Root: 5, At: 7}}
+	for len(l) < 40 {
+		l, _ = chain.Grow(l, uint64(len(l)), 1000)
+	}
+	all := [][]api.Head{nil, {}, l, l[:1], l[:39], l[3:9], l[39:], {{Epoch: 1000000}}, make([]api.Head, 2), make([]api.Head, 40), make([]api.Head, 41), make([]api.Head, 1<<16)}
+	for _, h := range heads() {
+		all = append(all, []api.Head{h}, []api.Head{h, h}, []api.Head{l[0], h}, []api.Head{h, l[0], l[1]})
+	}
+	return all
+}
+
+// P1: no panic; P3: with an error, all else is zero.
+func TestChainTakesAnything(t *testing.T) {
+	numbers := []int64{math.MinInt64, -1, 0, 1, 7, 1000, 1000000, 1000000000, math.MaxInt64}
+	for i, l := range chains() {
+		want, at := chain.Check(l)
+		if want == api.OK && at != 0 || at < 0 || at > 0 && at >= len(l) {
+			t.Error("Check", i, want, at)
+		}
+		for _, n := range numbers {
+			if x, err := chain.Grow(l, uint64(n), n); want != api.OK && err != want || (err == api.OK) != (len(x) != 0) {
+				t.Error("Grow", i, n, x, err)
+			}
+			for _, to := range numbers {
+				if x, err := chain.Part(l, n, to); want != api.OK && err != want || (err == api.OK) != (len(x) != 0) {
+					t.Error("Part", i, n, to, x, err)
+				}
+			}
+		}
+	}
+	for i, a := range chains()[:60] {
+		for j, b := range chains() {
+			n, err := chain.Fork(a, b)
+			x, y, fault := chain.Clash(a, b)
+			if err != api.OK && (n != 0 || fault != err) || (fault == api.OK) != (x != y) || (x == "") != (y == "") {
+				t.Error(i, j, n, err, x, y, fault)
+			}
+		}
+	}
+	for _, h := range heads() {
+		for i, l := range chains()[:60] {
+			if is, err := chain.Follows(h, l); is && err != api.OK {
+				t.Error(h, i, err)
+			}
+		}
+	}
+}
+
+// P2: arguments stay as they are, also beyond their length.
+func TestChainKeepsArguments(t *testing.T) {
+	all := chains()[2]
+	before := slices.Clone(all)
+	for _, n := range []int{1, 5, 39, 40} {
+		l := all[:n]
+		chain.Check(l)
+		chain.Grow(l, 77, 5000)
+		chain.Part(l, 0, int64(n-1))
+		chain.Part(l, 0, 0)
+		chain.Follows(all[0], all[1:n])
+		chain.Fork(l, all[:2])
+		chain.Clash(l, all)
+		if !slices.Equal(all, before) {
+			t.Fatal(n, all)
+		}
+	}
+}
+
+// P2: results are new memory, and no call leaves a trace in another.
+func TestChainResultsAreNew(t *testing.T) {
+	l := slices.Clone(chains()[2])
+	before := slices.Clone(l)
+	for _, n := range []int{1, 5, 39} {
+		one, _ := chain.Grow(l[:n], 77, 5000)
+		two, _ := chain.Grow(l[:n:n], 78, 6000)
+		want := slices.Clone(two)
+		clear(one)
+		part, _ := chain.Part(two, 0, int64(n))
+		same, _ := chain.Part(two, 0, int64(n))
+		clear(part[:cap(part)])
+		if !slices.Equal(two, want) || !slices.Equal(same, want) {
+			t.Error(n, two, same)
+		}
+		clear(two[:cap(two)])
+		if !slices.Equal(l, before) || !slices.Equal(same, want) {
+			t.Fatal(n, l, same)
+		}
+	}
+	grown, _ := chain.Grow(l[:5], 77, 5000)
+	part, _ := chain.Part(l, 2, 4)
+	want, middle := slices.Clone(grown), slices.Clone(part)
+	clear(l)
+	if !slices.Equal(grown, want) || !slices.Equal(part, middle) {
+		t.Error(grown, part)
+	}
+}
+
+// P3: a nil slice and an empty one are the same.
+func TestChainNilIsEmpty(t *testing.T) {
+	l := chains()[2]
+	for _, x := range [][]api.Head{nil, {}, l[:0]} {
+		err, at := chain.Check(x)
+		_, grow := chain.Grow(x, 1, 1)
+		_, part := chain.Part(x, 0, 0)
+		_, follows := chain.Follows(l[0], x)
+		_, fork := chain.Fork(x, l)
+		_, back := chain.Fork(l, x)
+		_, _, clash := chain.Clash(l, x)
+		for i, got := range []api.Errno{err, grow, part, follows, fork, back, clash} {
+			if got != api.ErrNone || at != 0 {
+				t.Error(i, got, at)
+			}
+		}
+	}
+}
+
+// P4: the first head with an error determines it.
+func TestChainErrorOrder(t *testing.T) {
+	form, far := api.Head{Prev: 1}, api.Head{At: -1}
+	for i, c := range []struct {
+		l    []api.Head
+		want api.Errno
+		at   int
+	}{
+		{[]api.Head{form, far}, api.ErrForm, 0},
+		{[]api.Head{far, form}, api.ErrRange, 0},
+		{[]api.Head{{}, {}, form, far}, api.ErrForm, 2},
+		{[]api.Head{{}, {}, {}, far, form}, api.ErrRange, 3},
+		{[]api.Head{{}, {}, {}}, api.ErrMark, 1},
+	} {
+		if err, at := chain.Check(c.l); err != c.want || at != c.at {
+			t.Error(i, err, at)
+		}
 	}
 }
 
