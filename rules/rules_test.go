@@ -15,6 +15,7 @@ import (
 	"tallyroll/mark"
 	"tallyroll/path"
 	"tallyroll/proof"
+	"tallyroll/roll"
 	"tallyroll/tag"
 	"tallyroll/tree"
 	"tallyroll/wire"
@@ -1024,6 +1025,180 @@ func TestChainErrorOrder(t *testing.T) {
 	} {
 		if err, at := chain.Check(c.l); err != c.want || at != c.at {
 			t.Error(i, err, at)
+		}
+	}
+}
+
+// logs returns lists of strings that no function should stumble over: logs of every kind of size, and lists that are none.
+func logs() [][]string {
+	all := [][]string{nil, {}, make([]string, 1), make([]string, 40), make([]string, 41), make([]string, 1<<16)}
+	for _, s := range odd() {
+		all = append(all, []string{s}, []string{"a", s}, []string{s, "a", "b"}, slices.Repeat([]string{s}, 40))
+	}
+	return all
+}
+
+// P1: no panic; P3: with an error, all else is zero.
+func TestRollTakesAnything(t *testing.T) {
+	numbers := []int{math.MinInt, -1, 0, 1, 2, 3, 39, 40, 41, 1 << 32, math.MaxInt}
+	proofs := [][]uint64{nil, {}, {1}, {0, mark.M, math.MaxUint64}, make([]uint64, 6), make([]uint64, 7), make([]uint64, 1<<16)}
+	for i, l := range logs() {
+		r, want := roll.Root(l)
+		if want != api.OK && r != 0 || r >= mark.M {
+			t.Error("Root", i, r, want)
+		}
+		for _, n := range numbers {
+			if p, err := roll.In(l, n); want != api.OK && err != want || err != api.OK && len(p) != 0 {
+				t.Error("In", i, n, p, err)
+			}
+			if p, err := roll.Grew(l, n); want != api.OK && err != want || err != api.OK && len(p) != 0 {
+				t.Error("Grew", i, n, p, err)
+			}
+		}
+	}
+	for _, n := range numbers {
+		for _, i := range numbers {
+			for j, p := range proofs {
+				for _, s := range []string{"", "a", strings.Repeat("\xff", 41), strings.Repeat("\xff", 1<<16)} {
+					if is, err := roll.IsIn(uint64(n), n, i, s, p); is || err == api.OK && (n < 1 || n > 40) {
+						t.Error("IsIn", n, i, len(s), j, is, err)
+					}
+				}
+				if is, err := roll.IsGrown(1, i, 2, n, p); is || err == api.OK && (n < 1 || n > 40) {
+					t.Error("IsGrown", n, i, j, is, err)
+				}
+			}
+		}
+	}
+}
+
+// P2: arguments stay as they are, also beyond their length.
+func TestRollKeepsArguments(t *testing.T) {
+	all := make([]string, 40)
+	for i := range all {
+		all[i] = strings.Repeat("x", i)
+	}
+	before := slices.Clone(all)
+	for _, n := range []int{1, 2, 3, 8, 39, 40} {
+		l := all[:n]
+		r, _ := roll.Root(l)
+		for i := range n {
+			p, _ := roll.In(l, i)
+			q, _ := roll.Grew(l, i+1)
+			a, _ := roll.Root(l[:i+1])
+			// Beyond the proofs there is room that belongs to the caller.
+			p, q = append(slices.Clone(p), 1, 2, 3), append(slices.Clone(q), 4, 5, 6)
+			in, grown := slices.Clone(p), slices.Clone(q)
+			is, err := roll.IsIn(r, n, i, l[i], p[:len(p)-3])
+			was, fault := roll.IsGrown(a, i+1, r, n, q[:len(q)-3])
+			if !is || !was || err != api.OK || fault != api.OK || !slices.Equal(p, in) || !slices.Equal(q, grown) {
+				t.Error(n, i, is, was, err, fault, p, q)
+			}
+		}
+		if !slices.Equal(all, before) {
+			t.Fatal(n, all)
+		}
+	}
+}
+
+// P2: results are new memory, and no call leaves a trace in another.
+func TestRollResultsAreNew(t *testing.T) {
+	l := []string{"a", "b", "c", "d", "e"}
+	root, _ := roll.Root(l)
+	for i := range l {
+		for k, proof := range []func() ([]uint64, api.Errno){
+			func() ([]uint64, api.Errno) { return roll.In(l, i) },
+			func() ([]uint64, api.Errno) { return roll.Grew(l, i+1) },
+		} {
+			first, _ := proof()
+			second, _ := proof()
+			want := slices.Clone(second)
+			clear(first[:cap(first)])
+			third, err := proof()
+			if !slices.Equal(second, want) || !slices.Equal(third, want) || err != api.OK {
+				t.Error(i, k, second, third, err)
+			}
+			roll.IsIn(1, 5, i, "x", want)
+			roll.IsGrown(1, i+1, 2, 5, want)
+			roll.Root([]string{"x"})
+			l[i] = "changed"
+			if !slices.Equal(second, want) {
+				t.Error(i, k, second)
+			}
+			l[i] = string([]byte{byte('a' + i)})
+			if r, err := roll.Root(l); r != root || err != api.OK {
+				t.Error(i, k, r, err)
+			}
+		}
+	}
+}
+
+// P3: a nil slice and an empty one are the same.
+func TestRollNilIsEmpty(t *testing.T) {
+	for _, l := range [][]string{nil, {}, []string{"a"}[:0]} {
+		_, err := roll.Root(l)
+		_, in := roll.In(l, 0)
+		_, grew := roll.Grew(l, 0)
+		if err != api.ErrNone || in != api.ErrNone || grew != api.ErrNone {
+			t.Error(err, in, grew)
+		}
+	}
+	r, _ := roll.Root([]string{"a"})
+	for _, p := range [][]uint64{nil, {}, []uint64{1}[:0]} {
+		is, err := roll.IsIn(r, 1, 0, "a", p)
+		same, fault := roll.IsGrown(r, 1, r, 1, p)
+		if !is || !same || err != api.OK || fault != api.OK {
+			t.Error(is, same, err, fault)
+		}
+	}
+}
+
+// P3: of several errors, the one that is listed first.
+func TestRollErrorOrder(t *testing.T) {
+	long := strings.Repeat("x", 41)
+	for _, i := range []int{-1, 0, 2, 41} {
+		_, none := roll.In(nil, i)
+		_, nothing := roll.Grew(nil, i)
+		_, large := roll.In([]string{"a", long}, i)
+		_, much := roll.Grew([]string{"a", long}, i)
+		if none != api.ErrNone || nothing != api.ErrNone || large != api.ErrLarge || much != api.ErrLarge {
+			t.Error(i, none, nothing, large, much)
+		}
+	}
+	for i, c := range []struct {
+		n, i int
+		want api.Errno
+	}{{0, 0, api.ErrRange}, {41, 0, api.ErrRange}, {2, 2, api.ErrRange}, {2, -1, api.ErrRange}, {2, 1, api.ErrLarge}} {
+		if is, err := roll.IsIn(1, c.n, c.i, long, nil); is || err != c.want {
+			t.Error(i, is, err)
+		}
+	}
+}
+
+// P4: strings are bytes, in what is hashed and in their length.
+func TestRollBytes(t *testing.T) {
+	for _, c := range [][2]string{{"\xff", "\xfe"}, {"\xff", "\uFFFD"}, {"\xc3\xa9", "e\xcc\x81"}, {"", "\x00"}, {"K", "k"}} {
+		l := []string{"a", c[0], "b"}
+		r, err := roll.Root(l)
+		p, fault := roll.In(l, 1)
+		is, _ := roll.IsIn(r, 3, 1, c[0], p)
+		if other, _ := roll.IsIn(r, 3, 1, c[1], p); !is || other || err != api.OK || fault != api.OK {
+			t.Errorf("%q: %t, %t, %d, %d", c, is, other, err, fault)
+		}
+	}
+	for _, c := range []struct {
+		text string
+		want api.Errno
+	}{
+		{strings.Repeat("\u00e9", 20), api.OK},
+		{strings.Repeat("\xff", 40), api.OK},
+		{strings.Repeat("\u00e9", 20) + "x", api.ErrLarge},
+		{strings.Repeat("\u00e9", 40), api.ErrLarge},
+	} {
+		_, err := roll.Root([]string{c.text})
+		_, fault := roll.IsIn(0, 1, 0, c.text, nil)
+		if err != c.want || fault != c.want {
+			t.Errorf("%q: %d, %d", c.text, err, fault)
 		}
 	}
 }
