@@ -15,6 +15,7 @@ import (
 	"tallyroll/mark"
 	"tallyroll/path"
 	"tallyroll/proof"
+	"tallyroll/queue"
 	"tallyroll/roll"
 	"tallyroll/tag"
 	"tallyroll/tree"
@@ -1199,6 +1200,202 @@ func TestRollBytes(t *testing.T) {
 		_, fault := roll.IsIn(0, 1, 0, c.text, nil)
 		if err != c.want || fault != c.want {
 			t.Errorf("%q: %d, %d", c.text, err, fault)
+		}
+	}
+}
+
+// waits returns queues that no function should stumble over, valid ones and others.
+func waits() []api.Queue {
+	a := api.Ask{Name: "a", Value: "1", N: 2, Tag: 3}
+	var l []api.Queue
+	for _, most := range []int{math.MinInt, -1, 0, 1, 2, 30, 31, math.MaxInt} {
+		for _, n := range []int{0, 1, 2, 29, 30, 31, 1 << 16} {
+			l = append(l, api.Queue{Most: most, Wait: slices.Repeat([]api.Ask{a}, n)}, api.Queue{Most: most, Wait: make([]api.Ask, n)})
+		}
+	}
+	for _, s := range odd() {
+		l = append(l,
+			api.Queue{Most: 3, Wait: []api.Ask{{Name: s, Value: s}}},
+			api.Queue{Most: 3, Wait: []api.Ask{a, {Name: "a", Value: s}, a}})
+	}
+	return l
+}
+
+// P1: no panic; P3: with an error, all else is zero.
+func TestQueueTakesAnything(t *testing.T) {
+	numbers := []int{math.MinInt, -1, 0, 1, 2, 30, 31, 1000, 1001, 1 << 32, math.MaxInt}
+	for i, q := range waits() {
+		want := queue.Check(q)
+		for _, s := range odd() {
+			for _, a := range []api.Ask{{Name: s, Value: s}, {Name: "a", Value: s, N: math.MaxUint64, Tag: math.MaxUint64}} {
+				x, n, err := queue.Put(q, a)
+				if want != api.OK && err != want || err != api.OK && (x.Most != 0 || len(x.Wait) != 0 || n != 0) {
+					t.Errorf("%d: Put(%.20q): %v, %d, %d", i, s, x, n, err)
+				}
+				if err == api.OK && (n != len(q.Wait) || queue.Check(x) != api.OK) {
+					t.Errorf("%d: Put(%.20q): %v, %d", i, s, x, n)
+				}
+			}
+		}
+		for _, n := range numbers {
+			x, l, err := queue.Take(q, n)
+			if want != api.OK && err != want || err != api.OK && (x.Most != 0 || len(x.Wait)+len(l) != 0) {
+				t.Error("Take", i, n, x, l, err)
+			}
+			if err == api.OK && (len(x.Wait)+len(l) != len(q.Wait) || queue.Check(x) != api.OK) {
+				t.Error("Take", i, n, x, l)
+			}
+		}
+	}
+	for _, a := range numbers {
+		for _, b := range numbers {
+			for _, c := range numbers {
+				if n, err := queue.Wait(a, b, c); (err == api.OK) != (n > 0) || n < 0 {
+					t.Error("Wait", a, b, c, n, err)
+				}
+			}
+		}
+	}
+}
+
+// fourAsks returns four requests, each unlike the others.
+func fourAsks() []api.Ask {
+	return []api.Ask{{Name: "a", Value: "1", N: 1, Tag: 5}, {Name: "b", Value: "2", N: 2, Tag: 6}, {Name: "a", Value: "3", N: 3, Tag: 7}, {Name: "zoe", N: 4}}
+}
+
+// P2: arguments stay as they are, also beyond their length.
+func TestQueueKeepsArguments(t *testing.T) {
+	all := fourAsks()
+	for n := range 5 {
+		for most := 1; most <= 5; most++ {
+			q := api.Queue{Most: most, Wait: all[:n]}
+			queue.Check(q)
+			queue.Put(q, api.Ask{Name: "new"})
+			queue.Put(q, api.Ask{Name: "A"})
+			for k := -1; k < 6; k++ {
+				queue.Take(q, k)
+			}
+			if !slices.Equal(all, fourAsks()) || q.Most != most || len(q.Wait) != n {
+				t.Fatal(n, most, all, q)
+			}
+		}
+	}
+}
+
+// P2: results are new memory, no two of them share any, and no call leaves a trace in another.
+func TestQueueResultsAreNew(t *testing.T) {
+	for n := range 5 {
+		all := fourAsks()
+		q := api.Queue{Most: 5, Wait: all[:n]}
+		var lists, copies [][]api.Ask
+		keep := func(l []api.Ask) {
+			lists, copies = append(lists, l), append(copies, slices.Clone(l))
+		}
+		for range 2 {
+			for _, name := range []string{"new", "other"} {
+				x, _, _ := queue.Put(q, api.Ask{Name: name})
+				keep(x.Wait)
+			}
+			for k := range 6 {
+				rest, taken, _ := queue.Take(q, k)
+				keep(rest.Wait)
+				keep(taken)
+			}
+		}
+		for i, l := range lists {
+			whole := l[:cap(l)]
+			for k := range whole {
+				whole[k] = api.Ask{Name: "changed"}
+			}
+			if !slices.Equal(all, fourAsks()) {
+				t.Fatal(n, i, all)
+			}
+			for j := i + 1; j < len(lists); j++ {
+				if !slices.Equal(lists[j], copies[j]) {
+					t.Fatal(n, i, j, lists[j])
+				}
+			}
+		}
+		x, _, _ := queue.Put(q, api.Ask{Name: "new"})
+		rest, taken, _ := queue.Take(q, 1)
+		clear(all)
+		if !slices.Equal(x.Wait, append(fourAsks()[:n], api.Ask{Name: "new"})) || !slices.Equal(slices.Concat(taken, rest.Wait), fourAsks()[:n]) {
+			t.Error(n, x, rest, taken)
+		}
+	}
+}
+
+// P3: a nil slice and an empty one are the same.
+func TestQueueNilIsEmpty(t *testing.T) {
+	for _, l := range [][]api.Ask{nil, {}, make([]api.Ask, 0, 5), fourAsks()[:0]} {
+		q := api.Queue{Most: 1, Wait: l}
+		x, ahead, err := queue.Put(q, api.Ask{Name: "a"})
+		if queue.Check(q) != api.OK || x.Most != 1 || !slices.Equal(x.Wait, []api.Ask{{Name: "a"}}) || ahead != 0 || err != api.OK {
+			t.Error(x, ahead, err)
+		}
+		rest, taken, fault := queue.Take(q, 1)
+		if rest.Most != 1 || len(rest.Wait)+len(taken) != 0 || fault != api.OK {
+			t.Error(rest, taken, fault)
+		}
+		if err := queue.Check(api.Queue{Wait: l}); err != api.ErrRange {
+			t.Error(err)
+		}
+	}
+}
+
+// P3: of several errors, the one that is listed first; P4: the first request with an error determines it.
+func TestQueueErrorOrder(t *testing.T) {
+	long := strings.Repeat("v", 21)
+	form, large, both := api.Ask{Name: "A"}, api.Ask{Name: "a", Value: long}, api.Ask{Name: "A", Value: long}
+	for i, c := range []struct {
+		q    api.Queue
+		a    api.Ask
+		want api.Errno
+	}{
+		{api.Queue{Wait: []api.Ask{large, form}}, form, api.ErrRange},
+		{api.Queue{Most: 31, Wait: make([]api.Ask, 32)}, large, api.ErrRange},
+		{api.Queue{Most: 1, Wait: []api.Ask{large, form}}, form, api.ErrFull},
+		{api.Queue{Most: 2, Wait: []api.Ask{large, form}}, form, api.ErrLarge},
+		{api.Queue{Most: 2, Wait: []api.Ask{form, large}}, large, api.ErrForm},
+		{api.Queue{Most: 1, Wait: []api.Ask{both}}, large, api.ErrForm},
+		{api.Queue{Most: 1, Wait: []api.Ask{{Name: "a"}}}, both, api.ErrForm},
+		{api.Queue{Most: 1, Wait: []api.Ask{{Name: "a"}}}, large, api.ErrLarge},
+		{api.Queue{Most: 1, Wait: []api.Ask{{Name: "a"}}}, api.Ask{Name: "a"}, api.ErrFull},
+	} {
+		if _, _, err := queue.Put(c.q, c.a); err != c.want {
+			t.Error(i, err)
+		}
+		if err := queue.Check(c.q); err != api.OK {
+			if _, _, fault := queue.Take(c.q, -1); err != c.want || fault != c.want {
+				t.Error(i, err, fault)
+			}
+		}
+	}
+}
+
+// P4: the length of a value is that of its bytes, and requests are kept byte by byte.
+func TestQueueBytes(t *testing.T) {
+	for _, c := range []struct {
+		value string
+		want  api.Errno
+	}{
+		{strings.Repeat("\xff", 20), api.OK},
+		{"\xff\xfe\x00\xc3", api.OK},
+		{strings.Repeat("\u00e9", 10), api.OK},
+		{strings.Repeat("\u00e9", 10) + "x", api.ErrLarge},
+		{strings.Repeat("\u00e9", 20), api.ErrLarge},
+	} {
+		q, _, err := queue.Put(api.Queue{Most: 1}, api.Ask{Name: "a", Value: c.value})
+		if fault := queue.Check(api.Queue{Most: 1, Wait: []api.Ask{{Name: "a", Value: c.value}}}); err != c.want || fault != c.want {
+			t.Errorf("%q: %d, %d", c.value, err, fault)
+		}
+		if _, l, _ := queue.Take(q, 1); c.want == api.OK && !slices.Equal(l, []api.Ask{{Name: "a", Value: c.value}}) {
+			t.Errorf("%q: %v", c.value, l)
+		}
+	}
+	for _, name := range []string{"\u00e9", "\uff11", "a\xcc\x81", "\xff"} {
+		if _, _, err := queue.Put(api.Queue{Most: 1}, api.Ask{Name: name}); err != api.ErrForm {
+			t.Errorf("%q: %d", name, err)
 		}
 	}
 }
