@@ -2,6 +2,7 @@
 package rules
 
 import (
+	"fmt"
 	"math"
 	"slices"
 	"strings"
@@ -11,6 +12,7 @@ import (
 	"tallyroll/chain"
 	"tallyroll/change"
 	"tallyroll/clash"
+	"tallyroll/clerk"
 	"tallyroll/head"
 	"tallyroll/mark"
 	"tallyroll/path"
@@ -1397,6 +1399,367 @@ func TestQueueBytes(t *testing.T) {
 		if _, _, err := queue.Put(api.Queue{Most: 1}, api.Ask{Name: name}); err != api.ErrForm {
 			t.Errorf("%q: %d", name, err)
 		}
+	}
+}
+
+// clerkAt returns a server after n ticks that publish a book each, of up to twelve names, with one request waiting unless it is closed.
+func clerkAt(t *testing.T, n int) api.Clerk {
+	t.Helper()
+	c, err := clerk.New(3, 1, 1)
+	for i := range n + 1 {
+		if err != api.OK {
+			t.Fatal(n, i, err)
+		}
+		if i > 0 {
+			c, _, err = clerk.Tick(c)
+		}
+		if err == api.OK && i < 39 {
+			c, _, err = clerk.Ask(c, api.Ask{Name: strings.Repeat("a", 1+i%12), Value: "1", N: 2, Tag: 3})
+		}
+	}
+	if err != api.OK {
+		t.Fatal(n, err)
+	}
+	return c
+}
+
+// servers returns servers that no function should stumble over, valid ones and others.
+func servers(t *testing.T) []api.Clerk {
+	t.Helper()
+	sound := clerkAt(t, 3)
+	l := []api.Clerk{{}, sound, clerkAt(t, 0), clerkAt(t, 38)}
+	with := func(change func(c *api.Clerk)) {
+		c := sound
+		change(&c)
+		l = append(l, c)
+	}
+	for _, q := range waits() {
+		with(func(c *api.Clerk) { c.Queue = q })
+	}
+	for _, n := range []int{math.MinInt, -1, 0, 1, 2, 30, 31, 1000, 1001, 1 << 32, api.MaxTime, api.MaxTime + 1, math.MaxInt} {
+		with(func(c *api.Clerk) { c.Batch = n })
+		with(func(c *api.Clerk) { c.Every = n })
+		with(func(c *api.Clerk) { c.Now = int64(n) })
+		with(func(c *api.Clerk) { c.Batch, c.Every, c.Now = n, n, int64(n) })
+	}
+	for _, heads := range chains() {
+		with(func(c *api.Clerk) { c.Heads = heads })
+		with(func(c *api.Clerk) { c.Heads, c.Books, c.Now = heads, make([][]api.Entry, len(heads)), api.MaxTime })
+	}
+	for _, n := range []int{0, 1, 3, 4, 5, 40, 41, 1 << 16} {
+		with(func(c *api.Clerk) { c.Books = make([][]api.Entry, n) })
+		with(func(c *api.Clerk) { c.Books = slices.Repeat([][]api.Entry{make([]api.Entry, 25)}, n) })
+	}
+	for _, s := range odd() {
+		for k := range 4 {
+			with(func(c *api.Clerk) {
+				c.Books = slices.Clone(c.Books)
+				c.Books[k] = []api.Entry{{Name: "a", Value: s}, {Name: s, Value: s}}
+			})
+		}
+	}
+	return l
+}
+
+// noClerk reports whether nothing is left in a server that comes with an error.
+func noClerk(c api.Clerk) bool {
+	return c.Queue.Most == 0 && c.Batch == 0 && c.Every == 0 && c.Now == 0 && len(c.Queue.Wait)+len(c.Heads)+len(c.Books) == 0
+}
+
+// P1: no panic; P3: with an error, all else is zero.
+func TestClerkTakesAnything(t *testing.T) {
+	numbers := []int{math.MinInt, -1, 0, 1, 2, 3, 4, 30, 31, 1000, 1001, 1 << 32, math.MaxInt}
+	for i, c := range servers(t) {
+		want := clerk.Check(c)
+		for _, a := range []api.Ask{{}, {Name: "a"}, {Name: "b", N: math.MaxUint64, Tag: math.MaxUint64}, {Name: "\xff"}, {Name: "a", Value: strings.Repeat("\xff", 1<<16)}} {
+			x, due, err := clerk.Ask(c, a)
+			if want != api.OK && err != want || err != api.OK && (!noClerk(x) || due != 0) || err == api.OK && clerk.Check(x) != api.OK {
+				t.Errorf("%d: Ask(%.20q): %d, %d", i, a.Name, due, err)
+			}
+		}
+		x, more, err := clerk.Tick(c)
+		if err != want || err != api.OK && (!noClerk(x) || more) || err == api.OK && clerk.Check(x) != api.OK {
+			t.Error("Tick", i, more, err)
+		}
+		for _, n := range numbers {
+			if l, err := clerk.Book(c, int64(n)); want != api.OK && err != want || err != api.OK && len(l) != 0 {
+				t.Error("Book", i, n, l, err)
+			}
+		}
+	}
+	for _, a := range numbers {
+		for _, b := range numbers {
+			for _, c := range numbers {
+				if x, err := clerk.New(a, b, c); err != api.OK && !noClerk(x) || err == api.OK && clerk.Check(x) != api.OK {
+					t.Error("New", a, b, c, x, err)
+				}
+			}
+		}
+	}
+	for _, s := range odd() {
+		for _, a := range []api.Ask{{Name: s}, {Name: s, Value: s}, {Name: "a", Value: s}} {
+			x, due, err := clerk.Ask(clerkAt(t, 2), a)
+			if err != api.OK && (!noClerk(x) || due != 0) || (err == api.OK) != (a.Name == "a" && len(s) <= 20) {
+				t.Errorf("Ask(%.20q, %.20q): %d, %d", a.Name, a.Value, due, err)
+			}
+		}
+	}
+}
+
+// roomy returns the server c in slices that have room behind their ends, and the whole of each of them.
+func roomy(c api.Clerk) (api.Clerk, [][]api.Ask, [][]api.Head, [][][]api.Entry, [][]api.Entry) {
+	wait := append(slices.Clone(c.Queue.Wait), fourAsks()...)
+	heads := append(slices.Clone(c.Heads), api.Head{Epoch: 7}, api.Head{Epoch: 8})
+	var books, inner [][]api.Entry
+	for _, b := range c.Books {
+		b = append(slices.Clone(b), api.Entry{Name: "x"}, api.Entry{Name: "y"})
+		inner = append(inner, b)
+		books = append(books, b[:len(b)-2])
+	}
+	books = append(books, []api.Entry{{Name: "z"}}, nil)
+	c.Queue.Wait, c.Heads, c.Books = wait[:len(wait)-4], heads[:len(heads)-2], books[:len(books)-2]
+	return c, [][]api.Ask{wait}, [][]api.Head{heads}, [][][]api.Entry{books}, inner
+}
+
+// calls returns what the functions that change a server make of c.
+func calls(c api.Clerk) []api.Clerk {
+	var l []api.Clerk
+	for _, a := range []api.Ask{{Name: "new"}, {Name: "a", Value: "2"}, {Name: "A"}} {
+		x, _, _ := clerk.Ask(c, a)
+		l = append(l, x)
+	}
+	x, _, _ := clerk.Tick(c)
+	y, _, _ := clerk.Tick(x)
+	c.Every = 1000
+	z, _, _ := clerk.Tick(c)
+	return append(l, x, y, z)
+}
+
+// P2: arguments stay as they are, also beyond their length.
+func TestClerkKeepsArguments(t *testing.T) {
+	for _, n := range []int{0, 1, 3, 39} {
+		c, wait, heads, books, inner := roomy(clerkAt(t, n))
+		before := fmt.Sprint(c, wait, heads, books, inner)
+		if err := clerk.Check(c); err != api.OK {
+			t.Fatal(n, err)
+		}
+		calls(c)
+		for k := range int64(n + 3) {
+			clerk.Book(c, k-1)
+		}
+		if after := fmt.Sprint(c, wait, heads, books, inner); after != before {
+			t.Error(n, before, after)
+		}
+	}
+}
+
+// memory returns, for each slice of a server, a function that overwrites it whole, with the room behind its end.
+func memory(c api.Clerk) []func() {
+	l := []func(){
+		func() { fill(c.Queue.Wait, api.Ask{Name: "changed"}) },
+		func() { fill(c.Heads, api.Head{Epoch: 99}) },
+		func() { fill(c.Books, []api.Entry{{Name: "other"}}) },
+	}
+	for _, b := range c.Books[:cap(c.Books)] {
+		l = append(l, func() { fill(b, api.Entry{Name: "changed"}) })
+	}
+	return l
+}
+
+// fill overwrites l with x, also beyond its length.
+func fill[T any](l []T, x T) {
+	whole := l[:cap(l)]
+	for i := range whole {
+		whole[i] = x
+	}
+}
+
+// written writes out the slices of a server one by one, the books as they were found at first.
+func written(c api.Clerk, books [][]api.Entry) []string {
+	l := []string{fmt.Sprint(c.Queue.Wait), fmt.Sprint(c.Heads), ""}
+	for _, b := range books {
+		l = append(l, fmt.Sprint(b))
+	}
+	return l
+}
+
+// P2: no two slices of a result share memory, nor does one with an argument, also where the books of the argument do.
+func TestClerkResultsAreNew(t *testing.T) {
+	once := clerkAt(t, 3)
+	twice := clerkAt(t, 30)
+	// These books are equal from some epoch on, and here they are one.
+	for i := range twice.Books {
+		twice.Books[i] = twice.Books[min(i, 12)]
+	}
+	closed := clerkAt(t, 39)
+	for i, c := range []api.Clerk{clerkAt(t, 0), once, twice, closed} {
+		if err := clerk.Check(c); err != api.OK {
+			t.Fatal(i, err)
+		}
+		for k := range calls(c) {
+			before := fmt.Sprint(c)
+			for j := range memory(calls(c)[k]) {
+				x := calls(c)[k]
+				books := slices.Clone(x.Books)
+				want := written(x, books)
+				memory(x)[j]()
+				got := written(x, books)
+				for p := range want {
+					if p != j && got[p] != want[p] {
+						t.Fatal(i, k, j, p, want[p], got[p])
+					}
+				}
+				if after := fmt.Sprint(c); after != before {
+					t.Fatal(i, k, j, before, after)
+				}
+			}
+		}
+	}
+}
+
+// P2: a change of an argument is not seen in a result of before.
+func TestClerkKeepsNoArgument(t *testing.T) {
+	for _, n := range []int{0, 1, 3, 39} {
+		for j := range memory(clerkAt(t, n)) {
+			c := clerkAt(t, n)
+			results := calls(c)
+			var books [][]api.Entry
+			for k := range min(int64(n+1), 4) {
+				b, err := clerk.Book(c, k)
+				if err != api.OK {
+					t.Fatal(n, k, err)
+				}
+				books = append(books, b)
+			}
+			before := fmt.Sprint(results, books)
+			memory(c)[j]()
+			if after := fmt.Sprint(results, books); after != before {
+				t.Error(n, j, before, after)
+			}
+		}
+	}
+}
+
+// P2: a book that is given out is not that of the server, and no call leaves a trace in another.
+func TestClerkBookIsNew(t *testing.T) {
+	c := clerkAt(t, 3)
+	before := fmt.Sprint(c)
+	for k := range int64(4) {
+		first, _ := clerk.Book(c, k)
+		second, _ := clerk.Book(c, k)
+		want := fmt.Sprint(second)
+		fill(first, api.Entry{Name: "changed"})
+		third, err := clerk.Book(c, k)
+		if fmt.Sprint(second) != want || fmt.Sprint(third) != want || fmt.Sprint(c) != before || err != api.OK {
+			t.Error(k, second, third, err)
+		}
+	}
+	x, _ := clerk.New(3, 2, 5)
+	want := fmt.Sprint(x)
+	y, _ := clerk.New(3, 2, 5)
+	for _, f := range memory(x) {
+		f()
+	}
+	z, err := clerk.New(3, 2, 5)
+	if fmt.Sprint(y) != want || fmt.Sprint(z) != want || err != api.OK {
+		t.Error(y, z, err)
+	}
+}
+
+// P3: a nil slice and an empty one are the same.
+func TestClerkNilIsEmpty(t *testing.T) {
+	start, _ := clerk.New(3, 1, 1)
+	for _, wait := range [][]api.Ask{nil, {}, fourAsks()[:0]} {
+		for _, book := range [][]api.Entry{nil, {}, []api.Entry{{Name: "a"}}[:0]} {
+			c := start
+			c.Queue.Wait, c.Books = wait, [][]api.Entry{book}
+			if err := clerk.Check(c); err != api.OK {
+				t.Error(err)
+			}
+			if l, err := clerk.Book(c, 0); len(l) != 0 || err != api.OK {
+				t.Error(l, err)
+			}
+			x, due, err := clerk.Ask(c, api.Ask{Name: "a"})
+			if len(x.Queue.Wait) != 1 || len(x.Books) != 1 || len(x.Books[0]) != 0 || due != 1 || err != api.OK {
+				t.Error(x, due, err)
+			}
+			y, more, err := clerk.Tick(c)
+			if len(y.Queue.Wait) != 0 || len(y.Books) != 2 || len(y.Books[1]) != 0 || !more || err != api.OK {
+				t.Error(y, more, err)
+			}
+		}
+	}
+	for _, books := range [][][]api.Entry{nil, {}} {
+		for _, heads := range [][]api.Head{nil, {}} {
+			c := start
+			c.Books = books
+			some := clerk.Check(c)
+			c.Heads = heads
+			if none := clerk.Check(c); some != api.ErrForm || none != api.ErrNone {
+				t.Error(some, none)
+			}
+		}
+	}
+}
+
+// P4: the first book, and the first request, with an error determines it.
+func TestClerkErrorOrder(t *testing.T) {
+	form, large := api.Entry{Name: "A"}, api.Entry{Name: "a", Value: strings.Repeat("v", 21)}
+	other := api.Entry{Name: "a", Value: "other"}
+	for i, c := range []struct {
+		first, second api.Entry
+		want          api.Errno
+	}{
+		{form, large, api.ErrForm}, {large, form, api.ErrLarge}, {other, form, api.ErrMark}, {form, other, api.ErrForm}, {other, large, api.ErrMark}, {large, other, api.ErrLarge},
+	} {
+		for _, at := range [][2]int{{0, 1}, {1, 2}, {0, 3}, {2, 3}} {
+			x := clerkAt(t, 3)
+			x.Books[at[0]], x.Books[at[1]] = []api.Entry{c.first}, []api.Entry{c.second}
+			if err := clerk.Check(x); err != c.want {
+				t.Error(i, at, err)
+			}
+		}
+	}
+	bad, long := api.Ask{Name: "A"}, api.Ask{Name: "a", Value: large.Value}
+	for i, c := range []struct {
+		wait []api.Ask
+		want api.Errno
+	}{{[]api.Ask{bad, long}, api.ErrForm}, {[]api.Ask{long, bad}, api.ErrLarge}} {
+		x := clerkAt(t, 3)
+		x.Queue.Wait, x.Books[0] = c.wait, []api.Entry{other}
+		if err := clerk.Check(x); err != c.want {
+			t.Error(i, err)
+		}
+	}
+}
+
+// P4: values are kept byte by byte, and their length is that of their bytes; division rounds down.
+func TestClerkBytes(t *testing.T) {
+	for _, value := range []string{"", "\x00", "\xff\xfe\x00\xc3", strings.Repeat("\u00e9", 10), "e\xcc\x81", "\u00e9", "\uFFFD"} {
+		c, _ := clerk.New(1, 1, 1)
+		c, _, err := clerk.Ask(c, api.Ask{Name: "a", Value: value})
+		if err != api.OK {
+			t.Errorf("%q: %d", value, err)
+		}
+		c, _, _ = clerk.Tick(c)
+		if l, err := clerk.Book(c, 1); !slices.Equal(l, []api.Entry{{Name: "a", Value: value}}) || err != api.OK {
+			t.Errorf("%q: %v, %d", value, l, err)
+		}
+	}
+	for _, a := range []api.Ask{{Name: "a", Value: strings.Repeat("\u00e9", 10) + "x"}, {Name: "a", Value: strings.Repeat("\u00e9", 11)}} {
+		c, _ := clerk.New(1, 1, 1)
+		if _, _, err := clerk.Ask(c, a); err != api.ErrLarge {
+			t.Errorf("%q: %d", a.Value, err)
+		}
+	}
+	c, _ := clerk.New(30, 3, 7)
+	c.Now = 20
+	for i, want := range []int64{21, 21, 21, 28, 28, 28, 35} {
+		x, due, err := clerk.Ask(c, api.Ask{Name: "a"})
+		if due != want || err != api.OK {
+			t.Error(i, due, err)
+		}
+		c = x
 	}
 }
 
