@@ -19,6 +19,7 @@ import (
 	"tallyroll/proof"
 	"tallyroll/queue"
 	"tallyroll/roll"
+	"tallyroll/serve"
 	"tallyroll/tag"
 	"tallyroll/tree"
 	"tallyroll/wire"
@@ -1760,6 +1761,242 @@ func TestClerkBytes(t *testing.T) {
 			t.Error(i, due, err)
 		}
 		c = x
+	}
+}
+
+// answer returns a valid reply for the name a, which has the value 1.
+func answer() api.Reply {
+	l := proofs()
+	p := l[len(l)-1]
+	root, _ := proof.Root(p)
+	return api.Reply{Head: api.Head{Epoch: 3, Root: root, Prev: 5, At: 9}, Proof: p}
+}
+
+// answers returns replies that no function should stumble over, valid ones and others.
+func answers() []api.Reply {
+	ok := answer()
+	l := []api.Reply{ok, {}}
+	for _, p := range proofs() {
+		l = append(l, api.Reply{Head: ok.Head, Proof: p})
+		h := ok.Head
+		h.Root, _ = proof.Root(p)
+		l = append(l, api.Reply{Head: h, Proof: p})
+	}
+	for _, h := range heads() {
+		l = append(l, api.Reply{Head: h, Proof: ok.Proof})
+	}
+	return l
+}
+
+// noReply reports whether nothing is left in a reply that comes with an error.
+func noReply(r api.Reply) bool {
+	return r.Head == (api.Head{}) && r.Proof.Name == "" && len(r.Proof.Entries)+len(r.Proof.Sides) == 0
+}
+
+// P1: no panic; P3: with an error, all else is zero.
+func TestServeTakesAnything(t *testing.T) {
+	epochs := []int64{math.MinInt64, -1, 0, 1, 3, 4, 39, 40, math.MaxInt64}
+	for i, c := range servers(t) {
+		want := clerk.Check(c)
+		for _, from := range epochs {
+			for _, name := range []string{"", "a", "zoe", "\xff", strings.Repeat("a", 1<<16)} {
+				if r, err := serve.Look(c, name, from); want != api.OK && err != want || err != api.OK && !noReply(r) || err == api.OK && r.Proof.Name != name {
+					t.Errorf("%d: Look(%.20q, %d): %d", i, name, from, err)
+				}
+			}
+			for _, to := range epochs {
+				if l, err := serve.Heads(c, from, to); want != api.OK && err != want || (err == api.OK) != (len(l) != 0) {
+					t.Errorf("%d: Heads(%d, %d): %v, %d", i, from, to, l, err)
+				}
+			}
+		}
+	}
+	ok := answer()
+	for i, r := range answers() {
+		v, is, want := serve.Tell(r)
+		if want != api.OK && (v != "" || is) {
+			t.Error("Tell", i, v, is, want)
+		}
+		s, err := serve.Said(r)
+		if err != want && err != api.ErrLarge || (err == api.OK) != (s != "") {
+			t.Errorf("Said(%d): %.20q, %d", i, s, err)
+		}
+		if x, err := serve.Read(s); (err == api.OK) != (s != "") || err != api.OK && (!noReply(x) || err != api.ErrForm) {
+			t.Error("Read", i, err)
+		}
+		for _, pair := range [][2]api.Reply{{r, r}, {r, ok}, {ok, r}} {
+			if s, u, err := serve.Against(pair[0], pair[1]); err == api.OK || s != "" || u != "" || want != api.OK && err != want {
+				t.Errorf("Against(%d): %.20q, %.20q, %d", i, s, u, err)
+			}
+		}
+	}
+	for _, s := range odd() {
+		if x, err := serve.Read(s); !noReply(x) || err != api.ErrForm {
+			t.Errorf("Read(%.20q): %d", s, err)
+		}
+	}
+}
+
+// spacious returns the reply r in slices that have room behind their ends, and the whole of each of them.
+func spacious(r api.Reply) (api.Reply, []api.Entry, []uint64) {
+	entries := append(slices.Clone(r.Proof.Entries), api.Entry{Name: "x"}, api.Entry{Name: "y"})
+	sides := append(slices.Clone(r.Proof.Sides), 5, 6)
+	r.Proof.Entries, r.Proof.Sides = entries[:len(entries)-2], sides[:len(sides)-2]
+	return r, entries, sides
+}
+
+// P2: arguments stay as they are, also beyond their length.
+func TestServeKeepsArguments(t *testing.T) {
+	for _, n := range []int64{0, 1, 3, 39} {
+		c, wait, heads, books, inner := roomy(clerkAt(t, int(n)))
+		before := fmt.Sprint(c, wait, heads, books, inner)
+		for _, name := range []string{"a", "zoe", "A"} {
+			for epoch := range n + 2 {
+				serve.Look(c, name, epoch)
+			}
+		}
+		serve.Heads(c, 0, n)
+		serve.Heads(c, n, n)
+		serve.Heads(c, 0, n+1)
+		if after := fmt.Sprint(c, wait, heads, books, inner); after != before {
+			t.Error(n, before, after)
+		}
+	}
+	r, entries, sides := spacious(answer())
+	x, more, others := spacious(answer())
+	before := fmt.Sprint(r, entries, sides, x, more, others)
+	for range 2 {
+		serve.Tell(r)
+		serve.Said(r)
+		serve.Against(r, x)
+		x.Proof.Entries[0].Value = "other"
+		serve.Against(r, x)
+		serve.Said(x)
+		x.Proof.Entries[0].Value = "1"
+	}
+	if after := fmt.Sprint(r, entries, sides, x, more, others); after != before {
+		t.Error(before, after)
+	}
+}
+
+// P2: replies and heads are new memory, and no call leaves a trace in another.
+func TestServeResultsAreNew(t *testing.T) {
+	c := clerkAt(t, 3)
+	before := fmt.Sprint(c)
+	said, err := serve.Said(answer())
+	if err != api.OK {
+		t.Fatal(err)
+	}
+	for i, get := range []func() api.Reply{
+		func() api.Reply { r, _ := serve.Look(c, "a", 1); return r },
+		func() api.Reply { r, _ := serve.Look(c, "a", 3); return r },
+		func() api.Reply { r, _ := serve.Look(c, "zoe", 3); return r },
+		func() api.Reply { r, _ := serve.Read(said); return r },
+	} {
+		want := fmt.Sprint(get())
+		for k := range 2 {
+			first, second := get(), get()
+			if k == 0 {
+				fill(first.Proof.Entries, api.Entry{Name: "changed"})
+			} else {
+				fill(first.Proof.Sides, 7)
+			}
+			if fmt.Sprint(second) != want || fmt.Sprint(get()) != want || fmt.Sprint(c) != before {
+				t.Error(i, k, second, want)
+			}
+		}
+	}
+	for _, pair := range [][2]int64{{0, 3}, {1, 2}, {3, 3}} {
+		first, _ := serve.Heads(c, pair[0], pair[1])
+		second, _ := serve.Heads(c, pair[0], pair[1])
+		want := fmt.Sprint(second)
+		fill(first, api.Head{Epoch: 99})
+		if fmt.Sprint(second) != want || fmt.Sprint(c) != before {
+			t.Error(pair, second, want)
+		}
+	}
+}
+
+// P2: a change of an argument is not seen in a result of before.
+func TestServeKeepsNoArgument(t *testing.T) {
+	for j := range memory(clerkAt(t, 3)) {
+		c := clerkAt(t, 3)
+		first, _ := serve.Look(c, "a", 3)
+		second, _ := serve.Look(c, "zoe", 1)
+		l, _ := serve.Heads(c, 0, 3)
+		before := fmt.Sprint(first, second, l)
+		memory(c)[j]()
+		if after := fmt.Sprint(first, second, l); after != before {
+			t.Error(j, before, after)
+		}
+	}
+}
+
+// P3: a nil slice and an empty one are the same.
+func TestServeNilIsEmpty(t *testing.T) {
+	c, _ := clerk.New(1, 1, 1)
+	absent, _ := serve.Look(c, "a", 0)
+	want, err := serve.Said(absent)
+	if err != api.OK {
+		t.Fatal(err)
+	}
+	for _, none := range [][]api.Entry{nil, {}, []api.Entry{{Name: "a"}}[:0]} {
+		r := absent
+		r.Proof.Entries = none
+		if v, is, err := serve.Tell(r); v != "" || is || err != api.OK {
+			t.Error(v, is, err)
+		}
+		if s, err := serve.Said(r); s != want || err != api.OK {
+			t.Errorf("%q, %d", s, err)
+		}
+		for _, other := range [][]api.Entry{nil, {}} {
+			x := absent
+			x.Proof.Entries = other
+			if s, u, err := serve.Against(r, x); s != "" || u != "" || err != api.ErrThere {
+				t.Errorf("%q, %q, %d", s, u, err)
+			}
+		}
+	}
+	for _, none := range [][]uint64{nil, {}} {
+		r := absent
+		r.Proof.Sides = none
+		if _, _, err := serve.Tell(r); err != api.ErrForm {
+			t.Error(err)
+		}
+	}
+	for _, books := range [][][]api.Entry{{nil}, {{}}} {
+		c.Books = books
+		if r, err := serve.Look(c, "a", 0); r.Head != c.Heads[0] || len(r.Proof.Entries) != 0 || err != api.OK {
+			t.Error(r, err)
+		}
+	}
+}
+
+// P4: strings are bytes, and the first entry with an error determines it.
+func TestServeBytes(t *testing.T) {
+	for _, value := range []string{"", "\x00", "\xff\xfe\x00\xc3", strings.Repeat("\u00e9", 10), "e\xcc\x81", "\uFFFD", strings.Repeat("\xff", 20)} {
+		r := answer()
+		r.Proof.Entries = []api.Entry{{Name: "a", Value: value}}
+		r.Head.Root, _ = proof.Root(r.Proof)
+		s, err := serve.Said(r)
+		if !strings.HasSuffix(s, "\x00\x01a\x00"+string([]byte{byte(len(value))})+value) || err != api.OK {
+			t.Errorf("%q: %q, %d", value, s, err)
+		}
+		x, err := serve.Read(s)
+		if v, is, fault := serve.Tell(x); v != value || !is || err != api.OK || fault != api.OK {
+			t.Errorf("%q: %q, %t, %d, %d", value, v, is, err, fault)
+		}
+	}
+	form, large := api.Entry{Name: "\u00e9"}, api.Entry{Name: "a", Value: strings.Repeat("\u00e9", 11)}
+	for i, c := range []struct {
+		l    []api.Entry
+		want api.Errno
+	}{{[]api.Entry{form, large}, api.ErrForm}, {[]api.Entry{large, form}, api.ErrLarge}} {
+		r := answer()
+		r.Proof.Entries = c.l
+		if _, err := serve.Said(r); err != c.want {
+			t.Error(i, err)
+		}
 	}
 }
 
